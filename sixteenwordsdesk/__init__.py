@@ -1,0 +1,1 @@
+"""Words sixteen at a time: picked, packed, met, joined; rows of them."""
