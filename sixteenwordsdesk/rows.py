@@ -1,6 +1,13 @@
 """The calls on rows of sixteen words of 32 bits, word 0 lowest."""
 
 WORDS = 16
+LONGS = 8
+LONG_BYTES = 8
+WORD_BITS = 32
+LONG_BITS = 64
+TOP_WORD = 4294967295
+TOP_LONG = 18446744073709551615
+TOP_BYTE = 255
 
 
 def has_bit(number, place):
@@ -15,6 +22,36 @@ def places_among(words, others):
         if words[i] in others:
             mask = mask | (1 << i)
     return mask
+
+
+def longs_of(row):
+    """Answer the row's eight longs of 64 bits, the lowest first."""
+    return [row[2 * i] | (row[2 * i + 1] << WORD_BITS) for i in range(LONGS)]
+
+
+def words_of(longs):
+    """Answer the sixteen words of eight longs."""
+    words = []
+    for value in longs:
+        words.append(value & TOP_WORD)
+        words.append(value >> WORD_BITS)
+    return words
+
+
+def join_left(upper, lower, amount):
+    """Answer the upper long of the two, one above the other, shifted left by 0 to 63 bits."""
+    return ((upper << amount) | (lower >> (LONG_BITS - amount))) & TOP_LONG
+
+
+def join_right(upper, lower, amount):
+    """Answer the lower long of the two, one above the other, shifted right by 0 to 63 bits."""
+    return ((lower >> amount) | (upper << (LONG_BITS - amount))) & TOP_LONG
+
+
+def place_told(places, k):
+    """Answer byte k of the long modulo 64."""
+    # 64 divides 256, so what stands above the byte doesn't count and need not be cut off.
+    return (places >> (8 * k)) % LONG_BITS
 
 
 def pack(m, x):
@@ -44,3 +81,49 @@ def first(x):
 def both(x, y):
     """Answer which words of x are among y's (bits 0 to 15), and of y among x's (bits 16 to 31)."""
     return [places_among(x, y) | (places_among(y, x) << WORDS)]
+
+
+def turn(way, x, by):
+    """Answer x's longs turned round by by's: to the left (way 0), to the right (way 1)."""
+    # A long turned round is a long joined with itself.
+    return join(way, x, x, by)
+
+
+def join(way, x, y, by):
+    """Answer x's longs shifted by by's, with y's bits coming in: from below (way 0), from above (way 1)."""
+    if way != 0 and way != 1:
+        return list(x)
+    x_longs = longs_of(x)
+    y_longs = longs_of(y)
+    amounts = [value % LONG_BITS for value in longs_of(by)]
+    if way == 0:
+        return words_of([join_left(x_longs[i], y_longs[i], amounts[i]) for i in range(LONGS)])
+    return words_of([join_right(y_longs[i], x_longs[i], amounts[i]) for i in range(LONGS)])
+
+
+def fields_of_long(value, places):
+    """Answer a long of eight bytes, each of them eight bits of the value from the place told on."""
+    answer = 0
+    for k in range(LONG_BYTES):
+        turned = join_right(value, value, place_told(places, k))
+        answer = answer | ((turned & TOP_BYTE) << (8 * k))
+    return answer
+
+
+def fields(x, from_bits):
+    """Answer for each byte of from_bits the eight bits of x's long from there on, round its end."""
+    x_longs = longs_of(x)
+    from_longs = longs_of(from_bits)
+    return words_of([fields_of_long(x_longs[i], from_longs[i]) for i in range(LONGS)])
+
+
+def bits(x, which):
+    """Answer one number: bit k is the bit of x's long that byte k of which tells."""
+    x_longs = longs_of(x)
+    which_longs = longs_of(which)
+    answer = 0
+    for k in range(LONGS * LONG_BYTES):
+        i = k // LONG_BYTES
+        if has_bit(x_longs[i], place_told(which_longs[i], k % LONG_BYTES)):
+            answer = answer | (1 << k)
+    return [answer]
