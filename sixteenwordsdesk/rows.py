@@ -3,16 +3,24 @@
 WORDS = 16
 LONGS = 8
 LONG_BYTES = 8
+FOURTH_WORDS = 4
 WORD_BITS = 32
 LONG_BITS = 64
 TOP_WORD = 4294967295
 TOP_LONG = 18446744073709551615
 TOP_BYTE = 255
+# Digits of times are below 2 to the power 52.
+DIGIT_LIMIT = 4503599627370496
 
 
 def has_bit(number, place):
     """Tell whether the bit at this place of the number is 1."""
     return ((number >> place) & 1) == 1
+
+
+def two_bits(number, j):
+    """Answer bits 2 j and 2 j + 1 of the number, from 0 to 3."""
+    return (number >> (2 * j)) % 4
 
 
 def places_among(words, others):
@@ -52,6 +60,20 @@ def place_told(places, k):
     """Answer byte k of the long modulo 64."""
     # 64 divides 256, so what stands above the byte doesn't count and need not be cut off.
     return (places >> (8 * k)) % LONG_BITS
+
+
+def fourth_told(row, how, j):
+    """Answer the four words of the row's fourth that bits 2 j and 2 j + 1 of how tell."""
+    start = FOURTH_WORDS * two_bits(how, j)
+    return row[start:start + FOURTH_WORDS]
+
+
+def part_of_product(part, one, other):
+    """Answer the lower (part 0) or the upper (part 1) digit of the product of two longs' lowest digits."""
+    whole = (one % DIGIT_LIMIT) * (other % DIGIT_LIMIT)
+    if part == 0:
+        return whole % DIGIT_LIMIT
+    return whole // DIGIT_LIMIT
 
 
 def pack(m, x):
@@ -127,3 +149,30 @@ def bits(x, which):
         if has_bit(x_longs[i], place_told(which_longs[i], k % LONG_BYTES)):
             answer = answer | (1 << k)
     return [answer]
+
+
+def times(part, s, x, y):
+    """Answer s's longs with the lower (part 0) or upper (part 1) digit of x's times y's longs added."""
+    if part != 0 and part != 1:
+        return list(s)
+    s_longs = longs_of(s)
+    x_longs = longs_of(x)
+    y_longs = longs_of(y)
+    return words_of([(s_longs[i] + part_of_product(part, x_longs[i], y_longs[i])) & TOP_LONG for i in range(LONGS)])
+
+
+def pick(x, which, y):
+    """Answer the words of x and y, one behind the other, that which's words tell."""
+    pair = x + y
+    return [pair[number % (2 * WORDS)] for number in which]
+
+
+def slide(n, x, y):
+    """Answer sixteen words of x and y, one behind the other, from word n modulo 16 on."""
+    start = n % WORDS
+    return (x + y)[start:start + WORDS]
+
+
+def fourths(how, x, y):
+    """Answer two fourths of x, then two of y, as each two bits of how tell."""
+    return fourth_told(x, how, 0) + fourth_told(x, how, 1) + fourth_told(y, how, 2) + fourth_told(y, how, 3)

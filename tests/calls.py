@@ -9,6 +9,8 @@ TOP = 4294967295
 ZEROS = [0] * 16
 TOPS = [TOP] * 16
 STEPS = list(range(100, 116))
+# Ints that are neither 0, 1 nor 2, some of them equal to these modulo a power of two.
+OTHER_INTS = [-2147483648, -2147483647, -65536, -256, -3, -2, -1, 3, 4, 256, 257, 65536, 65538, 2147483647]
 
 
 def refuse(self, *args, **kwargs):
