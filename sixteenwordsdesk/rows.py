@@ -56,16 +56,58 @@ def join_right(upper, lower, amount):
     return ((lower >> amount) | (upper << (LONG_BITS - amount))) & TOP_LONG
 
 
+def byte_of(value, k):
+    """Answer byte k of the long, byte 0 lowest."""
+    return (value >> (8 * k)) & TOP_BYTE
+
+
 def place_told(places, k):
     """Answer byte k of the long modulo 64."""
-    # 64 divides 256, so what stands above the byte doesn't count and need not be cut off.
-    return (places >> (8 * k)) % LONG_BITS
+    return byte_of(places, k) % LONG_BITS
 
 
 def fourth_told(row, how, j):
     """Answer the four words of the row's fourth that bits 2 j and 2 j + 1 of how tell."""
     start = FOURTH_WORDS * two_bits(how, j)
     return row[start:start + FOURTH_WORDS]
+
+
+def four_distances(one, one_start, other, other_start):
+    """Answer the sum of the distances of four bytes of one long, from a place on, from four of another."""
+    return sum([abs(byte_of(one, one_start + k) - byte_of(other, other_start + k)) for k in range(4)])
+
+
+def sums_of_distances(one, other):
+    """Answer a long of four sums of 16 bits, of the distances of one's bytes from the other's."""
+    answer = 0
+    for j in range(4):
+        # The lower two sums are of one's lower four bytes, the upper two of its upper four.
+        answer = answer | (four_distances(one, 4 * (j // 2), other, j) << (16 * j))
+    return answer
+
+
+def is_marked(what, one, other):
+    """Tell whether the two words are marked, as what tells."""
+    if what == 0:
+        return has_bit(one, WORD_BITS - 1)
+    if what == 1:
+        return (one & other) != 0
+    if what == 2:
+        return (one & other) == 0
+    return False
+
+
+def ones_in(word):
+    """Answer how many bits of the word are 1."""
+    return sum([(word >> place) & 1 for place in range(WORD_BITS)])
+
+
+def lowest_one(word):
+    """Answer which bit of the word is its lowest 1, and 32 if it has none."""
+    for place in range(WORD_BITS):
+        if has_bit(word, place):
+            return place
+    return WORD_BITS
 
 
 def part_of_product(part, one, other):
@@ -176,3 +218,40 @@ def slide(n, x, y):
 def fourths(how, x, y):
     """Answer two fourths of x, then two of y, as each two bits of how tell."""
     return fourth_told(x, how, 0) + fourth_told(x, how, 1) + fourth_told(y, how, 2) + fourth_told(y, how, 3)
+
+
+def apart(how, x, y):
+    """Answer sums of distances of x's bytes from those of y, whose words how puts in another order."""
+    x_longs = longs_of(x)
+    ordered = [y[i - i % FOURTH_WORDS + two_bits(how, i % FOURTH_WORDS)] for i in range(WORDS)]
+    y_longs = longs_of(ordered)
+    return words_of([sums_of_distances(x_longs[i], y_longs[i]) for i in range(LONGS)])
+
+
+def fill(m, what):
+    """Answer words that have all bits where they are in m (what 0), or that are m each (what 1)."""
+    if what == 0:
+        return [TOP_WORD if has_bit(m, i) else 0 for i in range(WORDS)]
+    if what == 1:
+        return [m] * WORDS
+    return [0] * WORDS
+
+
+def marks(what, x, y):
+    """Answer one mask: bit i if word i of x has its highest bit (what 0), a bit of y's (1) or none (2)."""
+    answer = 0
+    for i in range(WORDS):
+        if is_marked(what, x[i], y[i]):
+            answer = answer | (1 << i)
+    return [answer]
+
+
+def count(what, x):
+    """Answer for each word the bits above its highest 1 (what 0), its 1s (1), its lowest 1's place (2)."""
+    if what == 0:
+        return [WORD_BITS - word.bit_length() for word in x]
+    if what == 1:
+        return [ones_in(word) for word in x]
+    if what == 2:
+        return [lowest_one(word) for word in x]
+    return list(x)

@@ -14,7 +14,8 @@ GtE In NotIn BoolOp And Or UnaryOp Not USub Invert BinOp Add Sub Mult FloorDiv M
 RShift""".split()
 OWN_NAMES = """len range enumerate zip min max sum abs sorted reversed int str bool list tuple dict isinstance ord repr
 any all divmod""".split()
-METHODS = "append clear copy count extend get index insert items keys pop remove reverse setdefault update values".split()
+METHODS = """append bit_length clear copy count extend get index insert items keys pop remove reverse setdefault
+update values""".split()
 BARRED = "type typing enum Enum Flag Generic Protocol ABC register mro elements open input"
 
 
