@@ -9,6 +9,8 @@ LONG_BITS = 64
 TOP_WORD = 4294967295
 TOP_LONG = 18446744073709551615
 TOP_BYTE = 255
+TOP_MASK = 65535
+MOST_WORDS = 65536
 # Digits of times are below 2 to the power 52.
 DIGIT_LIMIT = 4503599627370496
 
@@ -108,6 +110,11 @@ def lowest_one(word):
         if has_bit(word, place):
             return place
     return WORD_BITS
+
+
+def is_ascending(words):
+    """Tell whether each word is greater than the one before it."""
+    return all([words[i - 1] < words[i] for i in range(1, len(words))])
 
 
 def part_of_product(part, one, other):
@@ -255,3 +262,55 @@ def count(what, x):
     if what == 2:
         return [lowest_one(word) for word in x]
     return list(x)
+
+
+def masks(a, b, op):
+    """Answer what op makes of two masks, 65536 more if that is 0, 131072 more if it is 65535; or -1."""
+    if op < 0 or op > 9:
+        return [-1]
+    # Nothing of a mask is left behind 16 places, so a greater shift need not be made.
+    by_op = [
+        a & b, b & ~a, a | b, a ^ b, ~(a ^ b),
+        a + b, a << min(b, WORDS), a >> b, ((a & TOP_BYTE) << 8) | (b & TOP_BYTE), ~a,
+    ]
+    r = by_op[op] & TOP_MASK
+    if r == 0:
+        return [r + 65536]
+    if r == TOP_MASK:
+        return [r + 131072]
+    return [r]
+
+
+def filter_words(n, lo, hi, words):
+    """Answer how many of the words are from lo to hi, then these in their order; or -1."""
+    if n > MOST_WORDS:
+        return [-1]
+    kept = [word for word in words if lo <= word and word <= hi]
+    return [len(kept)] + kept
+
+
+def group(n, groups, sums, keys, values):
+    """Answer how many keys tell no group, then sums with each other key's value added to its group; or -1."""
+    if n > MOST_WORDS or groups < 1 or groups > MOST_WORDS:
+        return [-1]
+    totals = list(sums)
+    strays = 0
+    for i in range(n):
+        if keys[i] < groups:
+            totals[keys[i]] = (totals[keys[i]] + values[i]) & TOP_WORD
+        else:
+            strays = strays + 1
+    return [strays] + totals
+
+
+def meet(n, k, a, b):
+    """Answer how many words are in both sets, then these, ascending; or -1; or -2 if one is not ascending."""
+    if n > MOST_WORDS or k > MOST_WORDS:
+        return [-1]
+    if not is_ascending(a) or not is_ascending(b):
+        return [-2]
+    known = {}
+    for word in b:
+        known[word] = True
+    common = [word for word in a if word in known]
+    return [len(common)] + common
