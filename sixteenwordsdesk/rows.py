@@ -4,6 +4,7 @@ WORDS = 16
 LONGS = 8
 LONG_BYTES = 8
 FOURTH_WORDS = 4
+BYTE_BITS = 8
 WORD_BITS = 32
 LONG_BITS = 64
 TOP_WORD = 4294967295
@@ -11,7 +12,9 @@ TOP_LONG = 18446744073709551615
 TOP_BYTE = 255
 TOP_MASK = 65535
 MOST_WORDS = 65536
-# Digits of times are below 2 to the power 52.
+MOST_DIGITS = 64
+MOST_BYTES = 4194304
+# Digits of times and product are below 2 to the power 52.
 DIGIT_LIMIT = 4503599627370496
 
 
@@ -117,12 +120,52 @@ def is_ascending(words):
     return all([words[i - 1] < words[i] for i in range(1, len(words))])
 
 
+def can_pack(n, width):
+    """Tell whether n words of this width may be packed."""
+    return n <= MOST_WORDS and width >= 1 and width <= WORD_BITS
+
+
+def recut(numbers, width, new_width):
+    """Answer the numbers' bits, width of each, one behind another, cut into numbers of another width."""
+    answer = []
+    held = 0
+    held_bits = 0
+    for number in numbers:
+        held = held | (number << held_bits)
+        held_bits = held_bits + width
+        while held_bits >= new_width:
+            answer.append(held & ((1 << new_width) - 1))
+            held = held >> new_width
+            held_bits = held_bits - new_width
+    if held_bits > 0:
+        answer.append(held)
+    return answer
+
+
 def part_of_product(part, one, other):
     """Answer the lower (part 0) or the upper (part 1) digit of the product of two longs' lowest digits."""
     whole = (one % DIGIT_LIMIT) * (other % DIGIT_LIMIT)
     if part == 0:
         return whole % DIGIT_LIMIT
     return whole // DIGIT_LIMIT
+
+
+def are_digits(numbers):
+    """Tell whether each number is a digit, below 2 to the power 52."""
+    return all([number < DIGIT_LIMIT for number in numbers])
+
+
+def product_digits(n, a, b):
+    """Answer the 2 n digits of the product of two numbers of n digits, the lowest first."""
+    answer = [0] * (2 * n)
+    for i in range(n):
+        carry = 0
+        for j in range(n):
+            total = answer[i + j] + a[i] * b[j] + carry
+            answer[i + j] = total % DIGIT_LIMIT
+            carry = total // DIGIT_LIMIT
+        answer[i + n] = carry
+    return answer
 
 
 def pack(m, x):
@@ -314,3 +357,37 @@ def meet(n, k, a, b):
         known[word] = True
     common = [word for word in a if word in known]
     return [len(common)] + common
+
+
+def narrow(n, width, words):
+    """Answer how many bytes the words fill, with width bits each, then these; or -1; or -2 if a word has more."""
+    if not can_pack(n, width):
+        return [-1]
+    if any([(word >> width) != 0 for word in words]):
+        return [-2]
+    octets = recut(words, width, BYTE_BITS)
+    return [len(octets)] + octets
+
+
+def widen(n, width, octets):
+    """Answer 0, then the n words that the bytes hold, with width bits each; or -1."""
+    if not can_pack(n, width):
+        return [-1]
+    # What is over in the last byte may make further words.
+    return [0] + recut(octets, BYTE_BITS, width)[:n]
+
+
+def product(n, a, b):
+    """Answer 0, then the 2 n digits of the product of two numbers of n digits; or -1; or -2 for a wrong digit."""
+    if n > MOST_DIGITS:
+        return [-1]
+    if not are_digits(a) or not are_digits(b):
+        return [-2]
+    return [0] + product_digits(n, a, b)
+
+
+def copy(n, octets):
+    """Answer 0, then the n bytes; or -1 if n is too great or no multiple of 64."""
+    if n > MOST_BYTES or n % 64 != 0:
+        return [-1]
+    return [0] + octets

@@ -10,7 +10,7 @@ PACKAGE = pathlib.Path(__file__).resolve().parent.parent / "sixteenwordsdesk"
 
 NODES = """Module Expr Constant Assign AugAssign Name Load Store FunctionDef arguments arg Return If While For Break
 Continue Pass IfExp Call Subscript Slice List Tuple Dict ListComp comprehension Attribute Compare Eq NotEq Lt LtE Gt
-GtE In NotIn BoolOp And Or UnaryOp Not USub Invert BinOp Add Sub Mult FloorDiv Mod Pow BitAnd BitOr BitXor LShift
+GtE In NotIn BoolOp And Or UnaryOp Not USub Invert BinOp Add Sub Mult FloorDiv Mod BitAnd BitOr BitXor LShift
 RShift""".split()
 OWN_NAMES = """len range enumerate zip min max sum abs sorted reversed int str bool list tuple dict isinstance ord repr
 any all divmod""".split()
@@ -55,7 +55,7 @@ class PackageTest(unittest.TestCase):
                 self.assertLessEqual(node.end_lineno - node.lineno + 1, 40, f"{name}: {node.name}")
 
     def test_forms(self):
-        # Imports, classes, sets, floats' division and the like are not among these.
+        # Imports, classes, sets, powers, floats' division and the like are not among these.
         for name, node in nodes():
             where = f"{name}, line {getattr(node, 'lineno', 0)}: {node.__class__.__name__}"
             self.assertIn(node.__class__.__name__, NODES, where)
@@ -74,6 +74,27 @@ class PackageTest(unittest.TestCase):
             for bound in bound_names(node):
                 self.assertFalse(hasattr(builtins, bound), f"{name}: {bound}")
                 self.assertFalse(bound.startswith("_"), f"{name}: {bound}")
+
+    def test_assignments_loops_and_calls(self):
+        for name, node in nodes():
+            where = f"{name}, line {getattr(node, 'lineno', 0)}"
+            if isinstance(node, ast.Assign):
+                self.assertEqual(len(node.targets), 1, where)
+            if isinstance(node, (ast.For, ast.While)):
+                self.assertEqual(node.orelse, [], where)
+            if isinstance(node, ast.ListComp):
+                self.assertEqual(len(node.generators), 1, where)
+                self.assertLessEqual(len(node.generators[0].ifs), 1, where)
+            if isinstance(node, ast.Call):
+                self.assertEqual(node.keywords, [], where)
+
+    def test_no_function_calls_itself(self):
+        # What may be as long as its input is gone through by loops.
+        for name, node in nodes():
+            if isinstance(node, ast.FunctionDef):
+                called = [inner.func.id for inner in ast.walk(node) if isinstance(inner, ast.Call)
+                          and isinstance(inner.func, ast.Name)]
+                self.assertNotIn(node.name, called, name)
 
     def test_barred_words(self):
         for name, text in sources().items():
